@@ -1,0 +1,199 @@
+package tests
+
+import (
+	"math"
+	"slices"
+	"strings"
+	"testing"
+
+	"loop.example/g00798/impl"
+)
+
+var codeTable = []struct {
+	number, constant int
+	word             string
+}{
+	{0, impl.OK, "ok"},
+	{1, impl.ErrBad, "bad"},
+	{2, impl.ErrLong, "long"},
+	{3, impl.ErrForm, "form"},
+	{4, impl.ErrRange, "range"},
+	{5, impl.ErrNone, "none"},
+	{6, impl.ErrMany, "many"},
+	{7, impl.ErrFull, "full"},
+	{8, impl.ErrSize, "size"},
+	{9, impl.ErrKind, "kind"},
+	{10, impl.ErrName, "name"},
+	{11, impl.ErrOrder, "order"},
+	{12, impl.ErrOrphan, "orphan"},
+	{13, impl.ErrNotDir, "notdir"},
+	{14, impl.ErrIsDir, "isdir"},
+	{15, impl.ErrSum, "sum"},
+	{16, impl.ErrFault, "fault"},
+	{17, impl.ErrState, "state"},
+	{18, impl.ErrSame, "same"},
+}
+
+func TestLimits(t *testing.T) {
+	if impl.MaxText != 65536 || impl.MaxList != 4096 || impl.MaxName != 12 || impl.MaxPart != 8 || impl.MaxDepth != 4 {
+		t.Error("a constant differs from the document")
+	}
+}
+
+func TestCodesAndWords(t *testing.T) {
+	for _, row := range codeTable {
+		if row.constant != row.number {
+			t.Errorf("the constant of %s is %d, want %d", row.word, row.constant, row.number)
+		}
+		if got := impl.CodeWord(row.number); got != row.word {
+			t.Errorf("CodeWord(%d) = %q, want %q", row.number, got, row.word)
+		}
+		if got := impl.CodeOf(row.word); got != row.number {
+			t.Errorf("CodeOf(%q) = %d, want %d", row.word, got, row.number)
+		}
+	}
+}
+
+func TestCodesThatAreNotInTheTable(t *testing.T) {
+	for _, code := range []int{-1, -2, -18, 19, 20, 256, 1 << 32, math.MinInt, math.MaxInt} {
+		if got := impl.CodeWord(code); got != "" {
+			t.Errorf("CodeWord(%d) = %q, want none", code, got)
+		}
+	}
+}
+
+func TestWordsThatAreNotInTheTable(t *testing.T) {
+	words := []string{"", "x", "OK", "Ok", "o", "okk", "ok ", " ok", "ok\x00", "0", "-1", "notDir", "not dir", "\xff"}
+	words = append(words, tooLong()...)
+	words = append(words, "ok"+strings.Repeat(" ", impl.MaxText), strings.Repeat("x", impl.MaxText))
+	for _, word := range words {
+		if got := impl.CodeOf(word); got != -1 {
+			t.Errorf("CodeOf(%.20q), of %d bytes, = %d, want -1", word, len(word), got)
+		}
+	}
+}
+
+func TestNames(t *testing.T) {
+	for _, name := range []string{"a", "z", "A", "Z", "_", "a0", "a9", "_a9", "__", "L1", "MANIFEST", "abcdefghijkl", "_23456789012"} {
+		if !impl.NameOK(name) {
+			t.Errorf("NameOK(%q) is false", name)
+		}
+	}
+	bad := []string{"", "0", "9a", "a b", " a", "a ", "a-b", "a.b", "a/b", "abcdefghijklm", "_234567890123", "a\x00", "é", "aé", "a\u212a", "a\xff", "a\n"}
+	for _, name := range append(bad, tooLong()...) {
+		if impl.NameOK(name) {
+			t.Errorf("NameOK(%.20q), of %d bytes, is true", name, len(name))
+		}
+	}
+}
+
+func TestEveryByteOfAName(t *testing.T) {
+	const letters = "abcdefghijklmnopqrstuvwxyzABCDEFGHIJKLMNOPQRSTUVWXYZ_"
+	for b := range 256 {
+		c := string([]byte{byte(b)})
+		first := strings.Contains(letters, c)
+		later := strings.Contains(letters+"0123456789", c)
+		if impl.NameOK(c) != first || impl.NameOK(c+"a") != first {
+			t.Errorf("NameOK is not %v for a name that begins with the byte %d", first, b)
+		}
+		if impl.NameOK("a"+c) != later || impl.NameOK("a"+c+"a") != later {
+			t.Errorf("NameOK is not %v for a name with the byte %d in it", later, b)
+		}
+	}
+}
+
+func TestStringsThatAreTooLong(t *testing.T) {
+	for i, long := range tooLong() {
+		if parts, code := impl.PartsOf(long); len(parts) != 0 || code != impl.ErrLong {
+			t.Errorf("%d: PartsOf returns %d parts and %d", i, len(parts), code)
+		}
+		if parent, code := impl.ParentOf(long); parent != "" || code != impl.ErrLong {
+			t.Errorf("%d: ParentOf returns %.20q and %d", i, parent, code)
+		}
+		if impl.PartOK(long) || impl.PathOK(long) {
+			t.Errorf("%d: PartOK or PathOK accepts it", i)
+		}
+		for _, other := range []string{"", "a", "b/c", "a//", long} {
+			if impl.PathLess(long, other) || impl.PathLess(other, long) || impl.IsBelow(long, other) || impl.IsBelow(other, long) {
+				t.Errorf("%d: PathLess or IsBelow accepts it beside %.20q", i, other)
+			}
+		}
+	}
+}
+
+// ErrLong precedes ErrName and ErrMany, whichever of the two arguments is too long.
+func TestJoinPathOfStringsThatAreTooLong(t *testing.T) {
+	for i, long := range tooLong() {
+		for _, other := range []string{"", "a", ".", "a//b", "a/b/c/d", long} {
+			if path, code := impl.JoinPath(long, other); path != "" || code != impl.ErrLong {
+				t.Errorf("%d: JoinPath(long, %.20q) = %.20q, %d", i, other, path, code)
+			}
+			if path, code := impl.JoinPath(other, long); path != "" || code != impl.ErrLong {
+				t.Errorf("%d: JoinPath(%.20q, long) = %.20q, %d", i, other, path, code)
+			}
+		}
+	}
+}
+
+func TestStringsOfMaxTextBytesAreNotTooLong(t *testing.T) {
+	for _, full := range []string{strings.Repeat("a", impl.MaxText), strings.Repeat("a/", impl.MaxText/2)} {
+		_, parts := impl.PartsOf(full)
+		_, parent := impl.ParentOf(full)
+		_, dir := impl.JoinPath(full, "a")
+		_, part := impl.JoinPath("a", full)
+		if codes := []int{parts, parent, dir, part}; !slices.Equal(codes, []int{impl.ErrName, impl.ErrName, impl.ErrName, impl.ErrName}) {
+			t.Errorf("the codes for %d bytes are %v, want ErrName", len(full), codes)
+		}
+	}
+}
+
+// allResults calls every function of chapters 1 and 2 for one pair of strings.
+func allResults(t *testing.T, a, b string) string {
+	t.Helper()
+	return resultOf(t, "a function of chapter 1 or 2", func() []any {
+		parts, partsCode := impl.PartsOf(a)
+		parent, parentCode := impl.ParentOf(a)
+		joined, joinCode := impl.JoinPath(a, b)
+		word := impl.CodeWord(len(a) - 1)
+		return []any{
+			impl.NameOK(a), word, impl.CodeOf(a), impl.CodeOf(word), impl.PartOK(a), impl.PathOK(a),
+			parts, partsCode, parent, parentCode, impl.PathLess(a, b), impl.IsBelow(a, b), joined, joinCode,
+		}
+	})
+}
+
+// Calls in another order, after other calls, give the same results.
+func TestEqualArgumentsYieldEqualResults(t *testing.T) {
+	args := []string{"", "a", "ok", "same", ".", "..", "...", "/", "a/", "/a", "a//b", "a/b", "a.b", "a/b/c/d", "a/b/c/d/e",
+		"a b", "\x00", "\x7f", "\x80", "\xff", "é", "longname", "longname1", "a/..", "_9", "twelvebytes_", strings.Repeat("a", impl.MaxText)}
+	args = append(args, tooLong()[:2]...)
+	first := map[[2]int]string{}
+	for i, a := range args {
+		for k, b := range args {
+			first[[2]int{i, k}] = allResults(t, a, b)
+		}
+	}
+	for k := len(args) - 1; k >= 0; k-- {
+		for i := len(args) - 1; i >= 0; i-- {
+			if got := allResults(t, args[i], args[k]); got != first[[2]int{i, k}] {
+				t.Errorf("the results for %.20q and %.20q change from call to call", args[i], args[k])
+			}
+		}
+	}
+}
+
+// A caller that overwrites or extends a result changes neither the argument nor a later result.
+func TestResultsAreNew(t *testing.T) {
+	arg := "a/b/c"
+	one, _ := impl.PartsOf(arg)
+	two, _ := impl.PartsOf(arg)
+	for i := range one {
+		one[i] = "x"
+	}
+	_ = append(one, "y")
+	three, _ := impl.PartsOf(arg)
+	want := []string{"a", "b", "c"}
+	if arg != "a/b/c" || !slices.Equal(two, want) || !slices.Equal(three, want) {
+		t.Error("results of PartsOf share memory", arg, two, three)
+	}
+}
