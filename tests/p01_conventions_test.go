@@ -197,3 +197,46 @@ func TestResultsAreNew(t *testing.T) {
 		t.Error("results of PartsOf share memory", arg, two, three)
 	}
 }
+
+// recordResults calls every function of chapter 3 with the fields of one record, and checks that the record is left as it was.
+func recordResults(t *testing.T, r impl.Record) string {
+	t.Helper()
+	before := r
+	result := resultOf(t, "a function of chapter 3", func() []any {
+		file, fileCode := impl.MakeFile(r.Path, r.Body, r.Mode)
+		dir, dirCode := impl.MakeDir(r.Path, r.Mode, r.Opaque)
+		white, whiteCode := impl.MakeWhite(r.Path)
+		link, linkCode := impl.MakeLink(r.Path, r.Body)
+		return []any{
+			impl.RecordFault(r), impl.RecordOK(r),
+			file, fileCode, dir, dirCode, white, whiteCode, link, linkCode,
+		}
+	})
+	if r != before {
+		t.Errorf("a function of chapter 3 changes its argument %.200q", []any{before})
+	}
+	return result
+}
+
+func TestEqualRecordsYieldEqualResults(t *testing.T) {
+	var records []impl.Record
+	long := tooLong()[0]
+	for _, kind := range []int{math.MinInt, -1, 0, 1, 2, 3, 4, 5, math.MaxInt} {
+		for _, path := range []string{"", "a", "a/b/c/d", "a//b", long} {
+			for _, body := range []string{"", "x", "\xff", body20, body21, long} {
+				for _, mode := range []int{math.MinInt, -1, 0, 511, 512, math.MaxInt} {
+					records = append(records, impl.Record{Kind: kind, Path: path, Body: body, Mode: mode, Opaque: mode%2 != 0})
+				}
+			}
+		}
+	}
+	first := make([]string, len(records))
+	for i, r := range records {
+		first[i] = recordResults(t, r)
+	}
+	for i := len(records) - 1; i >= 0; i-- {
+		if recordResults(t, records[i]) != first[i] {
+			t.Errorf("the results for %.200q change from call to call", []any{records[i]})
+		}
+	}
+}
