@@ -45,3 +45,8 @@ func resultOf(t *testing.T, name string, call func() []any) string {
 	}()
 	return fmt.Sprintf("%q", call())
 }
+
+// show prints the beginning of a list of records.
+func show(l []impl.Record) string {
+	return fmt.Sprintf("%.400s", fmt.Sprintf("%q", []any{l}))
+}

@@ -240,3 +240,77 @@ func TestEqualRecordsYieldEqualResults(t *testing.T) {
 		}
 	}
 }
+
+// layerResults calls every function of chapter 4, and checks that the layers and the unused capacity behind them are left as they were.
+func layerResults(t *testing.T, a, b []impl.Record, path string) string {
+	t.Helper()
+	a, b = withSpare(a), withSpare(b)
+	wholeA, wholeB := slices.Clone(a[:cap(a)]), slices.Clone(b[:cap(b)])
+	result := resultOf(t, "a function of chapter 4", func() []any {
+		index, code := impl.LayerFault(a)
+		r, findCode := impl.FindRecord(a, path)
+		under, underCode := impl.UnderOpaque(a, path)
+		form, formCode := impl.Canonical(a)
+		return []any{
+			index, code, impl.LayerOK(a), impl.SameLayer(a, b), r, findCode, under, underCode, slices.Clip(form), formCode, impl.IsCanonical(a),
+		}
+	})
+	if !slices.Equal(a[:cap(a)], wholeA) || !slices.Equal(b[:cap(b)], wholeB) {
+		t.Errorf("a function of chapter 4 changes an argument of %d or %d records", len(a), len(b))
+	}
+	return result
+}
+
+// withSpare returns the records with unused capacity behind them, in which there are other records.
+func withSpare(l []impl.Record) []impl.Record {
+	spare := append(slices.Clone(l), white("spare"), opaque("spare", 1), white("spare"))
+	return spare[:len(l)]
+}
+
+func TestEqualLayersYieldEqualResults(t *testing.T) {
+	layers := append(someLayers(40), nil, layer(), whites(16), whites(17), layer(impl.Record{}), layer(white("b"), white("a")), layer(white("a"), white("a")),
+		layer(white("a/b")), layer(white("a"), white("a/b")), layer(white(tooLong()[0])), make([]impl.Record, impl.MaxList), make([]impl.Record, impl.MaxList+1))
+	paths := []string{"", "a", "a/b", "a/b/c/d", "a/b/x/y", "b/w", "spare", "zap", "a//b", "a/b/c/d/e", tooLong()[0]}
+	first := map[[3]int]string{}
+	for i, a := range layers {
+		for k, b := range [][]impl.Record{a, layers[(i+1)%len(layers)]} {
+			for j, path := range paths {
+				first[[3]int{i, k, j}] = layerResults(t, a, b, path)
+			}
+		}
+	}
+	for i := len(layers) - 1; i >= 0; i-- {
+		for k, b := range [][]impl.Record{layers[i], layers[(i+1)%len(layers)]} {
+			for j := len(paths) - 1; j >= 0; j-- {
+				if layerResults(t, layers[i], b, paths[j]) != first[[3]int{i, k, j}] {
+					t.Errorf("the results for layer %d and %.20q change from call to call", i, paths[j])
+				}
+			}
+		}
+	}
+}
+
+// A caller that overwrites or extends a canonical form changes neither the layer nor a later result, and the reverse.
+func TestCanonicalFormsAreNew(t *testing.T) {
+	for _, arg := range append(someLayers(40), nil, whites(16)) {
+		l := withSpare(arg)
+		want, _ := impl.Canonical(arg)
+		one, _ := impl.Canonical(l)
+		two, _ := impl.Canonical(l)
+		for i := range one {
+			one[i] = impl.Record{}
+		}
+		clear(one[:cap(one)])
+		_ = append(one, white("x"))
+		if !slices.Equal(l, arg) || !slices.Equal(two, want) {
+			t.Errorf("a result of Canonical(%s) shares memory with its argument or another result", show(arg))
+		}
+		if behind := l[len(l) : len(l)+3]; behind[0].Path != "spare" || behind[1].Path != "spare" || behind[2].Path != "spare" {
+			t.Errorf("a result of Canonical(%s) uses the unused capacity of its argument", show(arg))
+		}
+		clear(l[:cap(l)])
+		if !slices.Equal(two, want) {
+			t.Errorf("a result of Canonical(%s) changes with its argument", show(arg))
+		}
+	}
+}
