@@ -314,3 +314,106 @@ func TestCanonicalFormsAreNew(t *testing.T) {
 		}
 	}
 }
+
+// treeResults calls every function of chapter 5, and checks that the trees and the unused capacity behind them are left as they were.
+func treeResults(t *testing.T, a, b []impl.Node, n impl.Node) string {
+	t.Helper()
+	a, b = withSpareNodes(a), withSpareNodes(b)
+	wholeA, wholeB := slices.Clone(a[:cap(a)]), slices.Clone(b[:cap(b)])
+	result := resultOf(t, "a function of chapter 5", func() []any {
+		found, findCode := impl.FindNode(a, n.Path)
+		parts, listCode := impl.ListDir(a, n.Path)
+		more, addCode := impl.AddNode(a, n)
+		rest, removeCode := impl.RemoveNode(a, n.Path)
+		l, layerCode := impl.LayerOfTree(a)
+		return []any{
+			impl.TreeOK(a), impl.SameTree(a, b), found, findCode, slices.Clip(parts), listCode, slices.Clip(more), addCode, slices.Clip(rest), removeCode, slices.Clip(l), layerCode,
+		}
+	})
+	if !slices.Equal(a[:cap(a)], wholeA) || !slices.Equal(b[:cap(b)], wholeB) {
+		t.Errorf("a function of chapter 5 changes an argument of %d or %d nodes", len(a), len(b))
+	}
+	return result
+}
+
+// withSpareNodes returns the nodes with unused capacity behind them, in which there are other nodes.
+func withSpareNodes(list []impl.Node) []impl.Node {
+	spare := append(slices.Clone(list), tree(file("spare", "x", 1), dir("spare", 2), white("spare"))...)
+	return spare[:len(list)]
+}
+
+func TestEqualTreesYieldEqualResults(t *testing.T) {
+	trees := append(someNodeLists(30), nil, tree(), plainFiles(16), plainFiles(17), plainFiles(24), plainFiles(25), []impl.Node{{}}, tree(white("a")), tree(file("b", "", 0), file("a", "", 0)),
+		tree(file("a", "", 0), file("a", "", 0)), tree(file("a/b", "", 0)), tree(file("a", "", 0), file("a/b", "", 0)), tree(file(tooLong()[0], "", 0)),
+		make([]impl.Node, impl.MaxList), make([]impl.Node, impl.MaxList+1))
+	var nodes []impl.Node
+	for _, path := range []string{"", "a", "a/b", "a/b/c/d", "a/b/x/y", "b/w", "spare", "zap", "a//b", "a/b/c/d/e", tooLong()[0]} {
+		nodes = append(nodes, tree(file(path, "x", 1), dir(path, 512), white(path))...)
+	}
+	first := map[[3]int]string{}
+	for i, a := range trees {
+		for k, b := range [][]impl.Node{a, trees[(i+1)%len(trees)]} {
+			for j, n := range nodes {
+				first[[3]int{i, k, j}] = treeResults(t, a, b, n)
+			}
+		}
+	}
+	for i := len(trees) - 1; i >= 0; i-- {
+		for k, b := range [][]impl.Node{trees[i], trees[(i+1)%len(trees)]} {
+			for j := len(nodes) - 1; j >= 0; j-- {
+				if treeResults(t, trees[i], b, nodes[j]) != first[[3]int{i, k, j}] {
+					t.Errorf("the results for tree %d and %.20q change from call to call", i, nodes[j].Path)
+				}
+			}
+		}
+	}
+}
+
+// checkNew checks that a result changes neither with the argument nor with another result, also where the code says that the tree is unchanged.
+func checkNew(t *testing.T, arg []impl.Node, name string, call func([]impl.Node) []impl.Node) {
+	t.Helper()
+	list := withSpareNodes(arg)
+	before := slices.Clone(list[:cap(list)])
+	want := call(slices.Clone(arg))
+	one, two := call(list), call(list)
+	clear(one[:cap(one)])
+	_ = append(one, impl.Node{Path: "x"})
+	if !slices.Equal(list[:cap(list)], before) || !slices.Equal(two, want) {
+		t.Errorf("a result of %s for %s shares memory with its argument or another result", name, showTree(arg))
+	}
+	clear(list[:cap(list)])
+	if !slices.Equal(two, want) {
+		t.Errorf("a result of %s for %s changes with its argument", name, showTree(arg))
+	}
+}
+
+func TestTreesAreNew(t *testing.T) {
+	for _, arg := range append(someNodeLists(40), nil, plainFiles(1), plainFiles(16), plainFiles(24)) {
+		for _, path := range []string{"", "Aa", "a", "a/b", "a/b/c", "a/!", "b", "b/w", "zap", "zap/zap"} {
+			checkNew(t, arg, "AddNode", func(list []impl.Node) []impl.Node {
+				more, _ := impl.AddNode(list, nodeOf(file(path, "x", 1)))
+				return more
+			})
+			checkNew(t, arg, "RemoveNode", func(list []impl.Node) []impl.Node {
+				rest, _ := impl.RemoveNode(list, path)
+				return rest
+			})
+		}
+	}
+}
+
+// Listed parts and records of a tree belong to the caller.
+func TestListsAndLayersOfTreesAreNew(t *testing.T) {
+	for _, arg := range append(someNodeLists(40), nil, plainFiles(16)) {
+		parts, _ := impl.ListDir(arg, "")
+		again, _ := impl.ListDir(arg, "")
+		l, _ := impl.LayerOfTree(arg)
+		other, _ := impl.LayerOfTree(arg)
+		before, parts2, l2 := slices.Clone(arg), slices.Clone(again), slices.Clone(other)
+		clear(parts[:cap(parts)])
+		clear(l[:cap(l)])
+		if !slices.Equal(arg, before) || !slices.Equal(again, parts2) || !slices.Equal(other, l2) {
+			t.Errorf("a result of ListDir or LayerOfTree for %s shares memory", showTree(arg))
+		}
+	}
+}
