@@ -417,3 +417,106 @@ func TestListsAndLayersOfTreesAreNew(t *testing.T) {
 		}
 	}
 }
+
+// withSpareStack returns the stack with unused capacity behind it and behind each of its layers.
+func withSpareStack(list [][]impl.Record) [][]impl.Record {
+	var spare [][]impl.Record
+	for _, l := range list {
+		spare = append(spare, withSpare(l))
+	}
+	spare = append(spare, layer(white("spare")), nil, layer(white("spare")))
+	return spare[:len(list)]
+}
+
+// wholeStack copies a stack with all its unused capacity, and notes the length of each layer behind it.
+func wholeStack(list [][]impl.Record) [][]impl.Record {
+	var whole [][]impl.Record
+	for _, l := range list[:cap(list)] {
+		whole = append(whole, append(slices.Clone(l[:cap(l)]), impl.Record{Mode: len(l)}))
+	}
+	return whole
+}
+
+// applyResults calls every function of chapter 6, and checks that the arguments and the unused capacity behind them are left as they were.
+func applyResults(t *testing.T, list [][]impl.Record, a, b []impl.Record, start []impl.Node) string {
+	t.Helper()
+	list, a, b, start = withSpareStack(list), withSpare(a), withSpare(b), withSpareNodes(start)
+	whole, wholeA, wholeB, wholeStart := wholeStack(list), slices.Clone(a[:cap(a)]), slices.Clone(b[:cap(b)]), slices.Clone(start[:cap(start)])
+	result := resultOf(t, "a function of chapter 6", func() []any {
+		one, oneCode := impl.Apply(a, start)
+		all, allCode := impl.ApplyAll(list, start)
+		view, viewCode := impl.ViewOf(list)
+		changes, changesCode := impl.Changes(a, start)
+		witness, witnessCode := impl.Witness(a, b)
+		return []any{
+			impl.StackOK(list), slices.Clip(one), oneCode, slices.Clip(all), allCode, slices.Clip(view), viewCode, changes, changesCode, slices.Clip(witness), witnessCode,
+		}
+	})
+	if !slices.EqualFunc(wholeStack(list), whole, slices.Equal) {
+		t.Errorf("a function of chapter 6 changes the stack %s", showStack(list))
+	}
+	if !slices.Equal(a[:cap(a)], wholeA) || !slices.Equal(b[:cap(b)], wholeB) || !slices.Equal(start[:cap(start)], wholeStart) {
+		t.Errorf("a function of chapter 6 changes an argument of %d or %d records or of %d nodes", len(a), len(b), len(start))
+	}
+	return result
+}
+
+func TestEqualStacksYieldEqualResults(t *testing.T) {
+	long := make([]impl.Record, impl.MaxList+1)
+	stacks := append(someStacks(30), nil, stack(nil), make([][]impl.Record, 5), make([][]impl.Record, 6), make([][]impl.Record, impl.MaxList), make([][]impl.Record, impl.MaxList+1),
+		stack(filesAt("L", 16), filesAt("U", 16)), stack(whites(17)), stack(nil, long), stack(layer(white("b"), white("a"))))
+	layers := append(someLayers(20), nil, whites(16), whites(17), layer(opaque("a", 1), white("a/b")), layer(dir("a", 1)), layer(impl.Record{}), make([]impl.Record, impl.MaxList), long)
+	trees := append(someNodeLists(10), nil, base(), plainFiles(24), plainFiles(25), []impl.Node{{}}, tree(white("a")), make([]impl.Node, impl.MaxList), make([]impl.Node, impl.MaxList+1))
+	call := func(i int) string {
+		list, a, start := stacks[i%len(stacks)], layers[i%len(layers)], trees[i%len(trees)]
+		return applyResults(t, list, a, layers[(i/3)%len(layers)], start)
+	}
+	first := map[int]string{}
+	for i := range 1000 {
+		first[i] = call(i)
+	}
+	for i := 999; i >= 0; i-- {
+		if call(i) != first[i] {
+			t.Errorf("the results of call %d change from call to call", i)
+		}
+	}
+}
+
+// The tree that a layer leaves as it is must be a copy, too.
+func TestResultsOfApplyingAreNew(t *testing.T) {
+	layers := append(someLayers(10), nil, whites(16), layer(file("Aa", "new", 1)))
+	for _, arg := range append(someNodeLists(20), nil, base(), plainFiles(16), plainFiles(24)) {
+		for _, l := range layers {
+			checkNew(t, arg, "Apply", func(list []impl.Node) []impl.Node {
+				after, _ := impl.Apply(l, list)
+				return after
+			})
+			for _, layers := range [][][]impl.Record{nil, stack(l), stack(whites(16), l)} {
+				checkNew(t, arg, "ApplyAll", func(list []impl.Node) []impl.Node {
+					after, _ := impl.ApplyAll(layers, list)
+					return after
+				})
+			}
+		}
+	}
+}
+
+func TestViewsAndWitnessesAreNew(t *testing.T) {
+	for _, list := range append(someStacks(60), nil, stack(filesAt("L", 16), filesAt("U", 16))) {
+		one, _ := impl.ViewOf(list)
+		two, _ := impl.ViewOf(list)
+		before := slices.Clone(two)
+		clear(one[:cap(one)])
+		if !slices.Equal(two, before) || !slices.Equal(two, afterAllByRule(list, nil)) {
+			t.Errorf("two results of ViewOf(%s) share memory", showStack(list))
+		}
+	}
+	for _, pair := range [][2][]impl.Record{{nil, layer(white("a"))}, {layer(opaque("a", 1)), layer(dir("a", 1))}, {nil, layer(dir("a", 1))}} {
+		one, _ := impl.Witness(pair[0], pair[1])
+		two, _ := impl.Witness(pair[0], pair[1])
+		clear(one[:cap(one)])
+		if want, _ := witnessByRule(pair[0], pair[1]); !slices.Equal(two, want) {
+			t.Errorf("two results of Witness(%s, %s) share memory", show(pair[0]), show(pair[1]))
+		}
+	}
+}
