@@ -461,6 +461,20 @@ func applyResults(t *testing.T, list [][]impl.Record, a, b []impl.Record, start 
 	return result
 }
 
+// checkRepeated makes calls in one order and again in the reverse one, and compares the results.
+func checkRepeated(t *testing.T, n int, call func(i int) string) {
+	t.Helper()
+	first := make([]string, n)
+	for i := range n {
+		first[i] = call(i)
+	}
+	for i := n - 1; i >= 0; i-- {
+		if call(i) != first[i] {
+			t.Errorf("the results of call %d change from call to call", i)
+		}
+	}
+}
+
 func TestEqualStacksYieldEqualResults(t *testing.T) {
 	long := make([]impl.Record, impl.MaxList+1)
 	stacks := append(someStacks(30), nil, stack(nil), make([][]impl.Record, 5), make([][]impl.Record, 6), make([][]impl.Record, impl.MaxList), make([][]impl.Record, impl.MaxList+1),
@@ -471,15 +485,7 @@ func TestEqualStacksYieldEqualResults(t *testing.T) {
 		list, a, start := stacks[i%len(stacks)], layers[i%len(layers)], trees[i%len(trees)]
 		return applyResults(t, list, a, layers[(i/3)%len(layers)], start)
 	}
-	first := map[int]string{}
-	for i := range 1000 {
-		first[i] = call(i)
-	}
-	for i := 999; i >= 0; i-- {
-		if call(i) != first[i] {
-			t.Errorf("the results of call %d change from call to call", i)
-		}
-	}
+	checkRepeated(t, 1000, call)
 }
 
 // The tree that a layer leaves as it is must be a copy, too.
@@ -519,4 +525,135 @@ func TestViewsAndWitnessesAreNew(t *testing.T) {
 			t.Errorf("two results of Witness(%s, %s) share memory", show(pair[0]), show(pair[1]))
 		}
 	}
+}
+
+// squashResults calls every function of chapter 7, and checks that the arguments and the unused capacity behind them are left as they were.
+func squashResults(t *testing.T, list [][]impl.Record, a, b []impl.Record, path string, from, to int) string {
+	t.Helper()
+	list, a, b = withSpareStack(list), withSpare(a), withSpare(b)
+	whole, wholeA, wholeB := wholeStack(list), slices.Clone(a[:cap(a)]), slices.Clone(b[:cap(b)])
+	result := resultOf(t, "a function of chapter 7", func() []any {
+		cuts, cutsCode := impl.Cuts(a, path)
+		both, bothCode := impl.Squash(a, b)
+		all, allCode := impl.SquashAll(list)
+		hidden, hiddenCode := impl.Hidden(a, b)
+		alike, alikeCode := impl.Alike(a, b)
+		replaced, replacedCode := impl.Replaced(list, from, to)
+		return []any{
+			cuts, cutsCode, both, bothCode, all, allCode, hidden, hiddenCode, alike, alikeCode, replaced, replacedCode,
+		}
+	})
+	if !slices.EqualFunc(wholeStack(list), whole, slices.Equal) {
+		t.Errorf("a function of chapter 7 changes the stack %s", showStack(list))
+	}
+	if !slices.Equal(a[:cap(a)], wholeA) || !slices.Equal(b[:cap(b)], wholeB) {
+		t.Errorf("a function of chapter 7 changes an argument of %d or %d records", len(a), len(b))
+	}
+	return result
+}
+
+func TestEqualLayersYieldEqualCombinations(t *testing.T) {
+	long := make([]impl.Record, impl.MaxList+1)
+	stacks := append(append(someStacks(30), wideStacks(30)...), nil, stack(nil), make([][]impl.Record, 5), make([][]impl.Record, 6), make([][]impl.Record, impl.MaxList), make([][]impl.Record, impl.MaxList+1),
+		stack(filesAt("L", 16), filesAt("U", 16)), stack(whites(17)), stack(nil, long), stack(layer(white("b"), white("a"))))
+	layers := append(someLayers(20), nil, whites(16), whites(17), filesAt("L", 16), layer(opaque("a", 1), white("a/b")), layer(dir("a", 1)), layer(impl.Record{}), make([]impl.Record, impl.MaxList), long)
+	paths := []string{"", "a", "a/b", "a/b/c/d", "a/b/x/y", "b/w", "spare/x", "zap", "a//b", "a/b/c/d/e", tooLong()[0]}
+	places := []int{0, 1, 5, 2, 3, -1, 4, 6, math.MinInt, math.MaxInt}
+	call := func(i int) string {
+		return squashResults(t, stacks[i%len(stacks)], layers[i%len(layers)], layers[(i/3)%len(layers)], paths[i%len(paths)], places[i/2%len(places)], places[i/5%len(places)])
+	}
+	checkRepeated(t, 1000, call)
+}
+
+// checkNewLayer checks that a combination changes neither with the layers it is made of nor with another result.
+func checkNewLayer(t *testing.T, args [][]impl.Record, name string, call func([][]impl.Record) []impl.Record) {
+	t.Helper()
+	list := withSpareStack(args)
+	before := wholeStack(list)
+	want := call(args)
+	one, two := call(list), call(list)
+	clear(one[:cap(one)])
+	_ = append(one, white("x"))
+	if !slices.EqualFunc(wholeStack(list), before, slices.Equal) || !slices.Equal(two, want) {
+		t.Errorf("a result of %s for %s shares memory with an argument or another result", name, showStack(args))
+	}
+	for _, l := range list {
+		clear(l[:cap(l)])
+	}
+	if !slices.Equal(two, want) {
+		t.Errorf("a result of %s for %s changes with an argument", name, showStack(args))
+	}
+}
+
+// Also where one layer is empty or hides the other one, so that the combination equals an argument.
+func TestCombinationsAreNew(t *testing.T) {
+	layers := append(someLayers(30), nil, layer(), whites(16), layer(white("a"), white("a."), white("b"), white("c")))
+	for i, lower := range layers {
+		for _, upper := range [][]impl.Record{nil, layer(), lower, layers[(i+1)%len(layers)], layers[len(layers)-1]} {
+			checkNewLayer(t, stack(lower, upper), "Squash", func(list [][]impl.Record) []impl.Record {
+				both, _ := impl.Squash(list[0], list[1])
+				return both
+			})
+			for _, list := range [][][]impl.Record{stack(lower), stack(lower, upper), stack(nil, lower, upper)} {
+				checkNewLayer(t, list, "SquashAll", func(list [][]impl.Record) []impl.Record {
+					all, _ := impl.SquashAll(list)
+					return all
+				})
+			}
+			one, _ := impl.Hidden(lower, upper)
+			two, _ := impl.Hidden(lower, upper)
+			clear(one[:cap(one)])
+			if !slices.Equal(two, hiddenByRule(lower, upper)) {
+				t.Errorf("two results of Hidden(%s, %s) share memory", show(lower), show(upper))
+			}
+		}
+	}
+}
+
+// Each layer of a result is overwritten with all its capacity, and nothing else changes: no argument, no other result and no other layer of the result.
+func TestReplacedStacksAreNew(t *testing.T) {
+	for _, args := range append(someStacks(60), nil, stack(nil, layer(), nil), slices.Repeat(stack(layer(dir("a", 1), white("a/b"))), 4), slices.Repeat(stack(whites(16)), 5)) {
+		for from := range len(args) + 1 {
+			for to := from; to <= len(args); to++ {
+				checkNewStack(t, args, from, to)
+			}
+		}
+	}
+	// One slice is all layers, and two layers are neighbours in one array.
+	l := withSpare(layer(dir("a", 1), file("a/b", "x", 2)))
+	checkNewStack(t, stack(l, l, l), 1, 1)
+	checkNewStack(t, stack(l, l, l), 2, 3)
+	both := append(layer(white("a")), white("b"))
+	checkNewStack(t, stack(both[:1], both[1:]), 0, 0)
+	checkNewStack(t, stack(both[:1], both[1:]), 0, 1)
+}
+
+func checkNewStack(t *testing.T, args [][]impl.Record, from, to int) {
+	t.Helper()
+	want, wantCode := replacedByRule(args, from, to)
+	want = copyOfStack(want)
+	before := wholeStack(args)
+	one, code := impl.Replaced(args, from, to)
+	two, _ := impl.Replaced(args, from, to)
+	if code != wantCode {
+		t.Fatalf("Replaced(%s, %d, %d) has the code %d", showStack(args), from, to, code)
+	}
+	for i := range one {
+		clear(one[i][:cap(one[i])])
+		if !slices.EqualFunc(one[i+1:], want[i+1:], slices.Equal) {
+			t.Errorf("two layers of Replaced(%s, %d, %d) share memory", showStack(args), from, to)
+		}
+	}
+	clear(one[:cap(one)])
+	if !slices.EqualFunc(wholeStack(args), before, slices.Equal) || !slices.EqualFunc(two, want, slices.Equal) {
+		t.Errorf("a result of Replaced(%s, %d, %d) shares memory with an argument or another result", showStack(args), from, to)
+	}
+}
+
+func copyOfStack(list [][]impl.Record) [][]impl.Record {
+	var out [][]impl.Record
+	for _, l := range list {
+		out = append(out, slices.Clone(l))
+	}
+	return out
 }

@@ -577,3 +577,25 @@ func TestTheCanonicalFormHasTheSameEffect(t *testing.T) {
 		t.Errorf("only %d layers of this test are not canonical", changed)
 	}
 }
+
+// Promise 5 with the functions of chapters 6 and 7, on trees as they are.
+func TestTheCanonicalFormApplied(t *testing.T) {
+	trees := append(append(someNodeLists(10), fullTrees()...), chainTrees()...)
+	changed := 0
+	for _, l := range append(append(someLayers(150), chainLayers()...), nil, whites(16)) {
+		form, _ := impl.Canonical(l)
+		if !slices.Equal(form, l) {
+			changed++
+		}
+		checkAlike(t, l, form, true, 0)
+		for _, list := range trees {
+			want, code := impl.Apply(l, list)
+			checkApply(t, form, list, want, code)
+			changes, _ := impl.Changes(l, list)
+			checkChanges(t, form, list, changes, 0)
+		}
+	}
+	if changed < 100 {
+		t.Errorf("only %d layers of this test are not canonical", changed)
+	}
+}

@@ -74,6 +74,7 @@ func checkTold(t *testing.T, a, b []impl.Record, trees [][]impl.Node) int {
 	t.Helper()
 	want, wantCode := witnessByRule(a, b)
 	checkWitness(t, a, b, want, wantCode)
+	checkAlike(t, a, b, wantCode == impl.ErrSame, 0)
 	list, code := impl.Witness(a, b)
 	if code == 0 {
 		after, codeA := impl.Apply(a, list)
@@ -181,6 +182,18 @@ func TestSomePairsOfLayers(t *testing.T) {
 	}
 }
 
+// pairsOfOneForm returns pairs of layers that have the same canonical form.
+func pairsOfOneForm() [][2][]impl.Record {
+	return [][2][]impl.Record{
+		{nil, layer()},
+		{layer(opaque("a", 1), white("a/b")), layer(opaque("a", 1))},
+		{layer(opaque("a", 1), white("a/b")), layer(opaque("a", 1), white("a/c"), white("a/d"))},
+		{layer(opaque("a", 1), opaque("a/b", 2)), layer(opaque("a", 1), dir("a/b", 2))},
+		{layer(opaque("a", 1), opaque("a/b", 2), white("a/b/c")), layer(opaque("a", 1), dir("a/b", 2))},
+		{layer(dir("a", 1), dir("a/b", 2), dir("a/b/c", 3), opaque("a/b/c/d", 4)), layer(dir("a", 1), dir("a/b", 2), dir("a/b/c", 3), dir("a/b/c/d", 4))},
+	}
+}
+
 // A layer and its canonical form have the same effect, and so have two layers with one form.
 func TestLayersWithTheSameForm(t *testing.T) {
 	trees := append(append(someNodeLists(15), fullTrees()...), chainTrees()[20:40]...)
@@ -199,14 +212,7 @@ func TestLayersWithTheSameForm(t *testing.T) {
 	if differ < 50 {
 		t.Errorf("only %d layers of this test are not canonical", differ)
 	}
-	for _, pair := range [][2][]impl.Record{
-		{nil, layer()},
-		{layer(opaque("a", 1), white("a/b")), layer(opaque("a", 1))},
-		{layer(opaque("a", 1), white("a/b")), layer(opaque("a", 1), white("a/c"), white("a/d"))},
-		{layer(opaque("a", 1), opaque("a/b", 2)), layer(opaque("a", 1), dir("a/b", 2))},
-		{layer(opaque("a", 1), opaque("a/b", 2), white("a/b/c")), layer(opaque("a", 1), dir("a/b", 2))},
-		{layer(dir("a", 1), dir("a/b", 2), dir("a/b/c", 3), opaque("a/b/c/d", 4)), layer(dir("a", 1), dir("a/b", 2), dir("a/b/c", 3), dir("a/b/c/d", 4))},
-	} {
+	for _, pair := range pairsOfOneForm() {
 		checkWitness(t, pair[0], pair[1], nil, impl.ErrSame)
 		checkTold(t, pair[0], pair[1], trees)
 	}
