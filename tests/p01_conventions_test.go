@@ -657,3 +657,69 @@ func copyOfStack(list [][]impl.Record) [][]impl.Record {
 	}
 	return out
 }
+
+// mergeResults calls every function of chapter 8, and checks that the stack and the unused capacity behind it are left as they were.
+func mergeResults(t *testing.T, list [][]impl.Record, path string) string {
+	t.Helper()
+	list = withSpareStack(list)
+	whole := wholeStack(list)
+	result := resultOf(t, "a function of chapter 8", func() []any {
+		paths, pathsCode := impl.PathsOf(list)
+		cut, cutCode := impl.CutDepth(list, path)
+		winner, number, winnerCode := impl.WinnerAt(list, path)
+		merged, mergedCode := impl.MergeMany(list)
+		picks, picksCode := impl.MergeTrace(list)
+		return []any{
+			paths, pathsCode, cut, cutCode, winner, number, winnerCode, merged, mergedCode, picks, picksCode,
+		}
+	})
+	if !slices.EqualFunc(wholeStack(list), whole, slices.Equal) {
+		t.Errorf("a function of chapter 8 changes the stack %s", showStack(list))
+	}
+	return result
+}
+
+func TestEqualStacksYieldEqualMerges(t *testing.T) {
+	long := make([]impl.Record, impl.MaxList+1)
+	stacks := append(append(someStacks(30), wideStacks(30)...), nil, stack(nil), make([][]impl.Record, 5), make([][]impl.Record, 6), make([][]impl.Record, impl.MaxList), make([][]impl.Record, impl.MaxList+1),
+		stack(filesAt("L", 16), filesAt("U", 16)), slices.Repeat(stack(whites(16)), 5), stack(whites(17)), stack(nil, long), stack(layer(white("b"), white("a"))), stack(layer(impl.Record{})))
+	paths := []string{"", "a", "a/b", "a/b/c/d", "a/b/x/y", "b/w", "spare", "spare/x", "zap", "a//b", "a/b/c/d/e", strings.Repeat("a", impl.MaxText), tooLong()[0]}
+	checkRepeated(t, len(stacks)*len(paths), func(i int) string {
+		return mergeResults(t, stacks[i%len(stacks)], paths[i/len(stacks)])
+	})
+}
+
+// Also where one layer is the whole stack or hides the others, so that the merged layer equals it.
+func TestMergesAreNew(t *testing.T) {
+	for _, list := range append(append(someStacks(120), wideStacks(60)...), nil, stack(nil), stack(whites(16)), stack(nil, layer(white("a")), nil), slices.Repeat(stack(filesAt("L", 16)), 5)) {
+		checkNewLayer(t, list, "MergeMany", func(list [][]impl.Record) []impl.Record {
+			merged, _ := impl.MergeMany(list)
+			return merged
+		})
+		checkNewList(t, list, "PathsOf", impl.PathsOf)
+		checkNewList(t, list, "MergeTrace", impl.MergeTrace)
+	}
+	// One slice is all layers.
+	l := withSpare(layer(dir("a", 1), file("a/b", "x", 2)))
+	checkNewList(t, stack(l, l, l), "PathsOf", impl.PathsOf)
+	checkNewList(t, stack(l, l, l), "MergeTrace", impl.MergeTrace)
+}
+
+// checkNewList checks that a list changes neither with the stack that it is about nor with another result.
+func checkNewList[T comparable](t *testing.T, args [][]impl.Record, name string, call func([][]impl.Record) ([]T, int)) {
+	t.Helper()
+	list := withSpareStack(copyOfStack(args))
+	want, _ := call(args)
+	one, _ := call(list)
+	two, _ := call(list)
+	clear(one[:cap(one)])
+	if !slices.Equal(two, want) {
+		t.Errorf("two results of %s for %s share memory", name, showStack(args))
+	}
+	for _, l := range list {
+		clear(l[:cap(l)])
+	}
+	if !slices.Equal(two, want) {
+		t.Errorf("a result of %s for %s changes with its argument", name, showStack(args))
+	}
+}
