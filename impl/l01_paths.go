@@ -71,6 +71,16 @@ func ParentOf(t string) (string, int) {
 	return strings.Join(parts[:len(parts)-1], "/"), OK
 }
 
+// pathsAbove returns the parent of a path, the parent of that and so on without the root, the highest one first.
+func pathsAbove(path string) []string {
+	parts := splitPath(path)
+	var above []string
+	for i := 1; i < len(parts); i++ {
+		above = append(above, strings.Join(parts[:i], "/"))
+	}
+	return above
+}
+
 // PathLess compares part by part, because '/' is not the least byte of a path: "a/b" precedes "a.b".
 func PathLess(a, b string) bool {
 	p, q := splitPath(a), splitPath(b)

@@ -723,3 +723,78 @@ func checkNewList[T comparable](t *testing.T, args [][]impl.Record, name string,
 		t.Errorf("a result of %s for %s changes with its argument", name, showStack(args))
 	}
 }
+
+// diffResults calls every function of chapter 9, and checks that the arguments and the unused capacity behind them are left as they were.
+func diffResults(t *testing.T, a, b []impl.Node, l []impl.Record) string {
+	t.Helper()
+	a, b, l = withSpareNodes(a), withSpareNodes(b), withSpare(l)
+	wholeA, wholeB, whole := slices.Clone(a[:cap(a)]), slices.Clone(b[:cap(b)]), slices.Clone(l[:cap(l)])
+	result := resultOf(t, "a function of chapter 9", func() []any {
+		between, betweenCode := impl.LayerBetween(a, b)
+		touched, touchedCode := impl.Touched(a, b)
+		undo, undoCode := impl.UndoOf(l, a)
+		again, againCode := impl.Rebase(l, a)
+		size, sizeCode := impl.SizeOf(l)
+		return []any{
+			between, betweenCode, touched, touchedCode, undo, undoCode, again, againCode, size, sizeCode,
+		}
+	})
+	if !slices.Equal(a[:cap(a)], wholeA) || !slices.Equal(b[:cap(b)], wholeB) || !slices.Equal(l[:cap(l)], whole) {
+		t.Errorf("a function of chapter 9 changes an argument of %d or %d nodes or of %d records", len(a), len(b), len(l))
+	}
+	return result
+}
+
+func TestEqualTreesYieldEqualDifferences(t *testing.T) {
+	layers := append(someLayers(30), nil, whites(16), whites(17), filesAt("L", 16), layer(opaque("a", 1), white("a/b")), layer(white("d")), layer(dir("a", 1)), layer(white("b"), white("a")), layer(impl.Record{}),
+		make([]impl.Record, impl.MaxList), make([]impl.Record, impl.MaxList+1))
+	trees := append(someNodeLists(30), nil, base(), plainFiles(16), plainFiles(24), plainFiles(25), []impl.Node{{}}, tree(white("a")), tree(file("b", "", 0), file("a", "", 0)),
+		make([]impl.Node, impl.MaxList), make([]impl.Node, impl.MaxList+1))
+	checkRepeated(t, len(trees)*len(trees), func(i int) string {
+		return diffResults(t, trees[i%len(trees)], trees[i/len(trees)], layers[i%len(layers)])
+	})
+}
+
+// checkNewDifference checks that a list changes neither with the trees and the layer that it is about nor with another result.
+func checkNewDifference[T comparable](t *testing.T, a, b []impl.Node, l []impl.Record, name string, call func(a, b []impl.Node, l []impl.Record) []T) {
+	t.Helper()
+	want := call(a, b, l)
+	a, b, l = withSpareNodes(a), withSpareNodes(b), withSpare(l)
+	one, two := call(a, b, l), call(a, b, l)
+	clear(one[:cap(one)])
+	if !slices.Equal(two, want) || !slices.Equal(call(a, b, l), want) {
+		t.Errorf("a result of %s for %s, %s and %s shares memory with an argument or another result", name, showTree(a), showTree(b), show(l))
+	}
+	clear(a[:cap(a)])
+	clear(b[:cap(b)])
+	clear(l[:cap(l)])
+	if !slices.Equal(two, want) {
+		t.Errorf("a result of %s changes with an argument", name)
+	}
+}
+
+// Also where the layer between two trees is the layer of one of them, or the layer that is rebased.
+func TestDifferencesAreNew(t *testing.T) {
+	trees := append(someNodeLists(30), nil, base(), plainFiles(16))
+	for i, l := range append(someLayers(60), nil, whites(16), filesAt("L", 8), layer(white("d"))) {
+		for _, pair := range [][2]int{{i, i + 1}, {i, i}, {30, i}, {i, 30}, {31, 32}} {
+			a, b := trees[pair[0]%len(trees)], trees[pair[1]%len(trees)]
+			checkNewDifference(t, a, b, l, "LayerBetween", func(a, b []impl.Node, _ []impl.Record) []impl.Record {
+				between, _ := impl.LayerBetween(a, b)
+				return between
+			})
+			checkNewDifference(t, a, b, l, "Touched", func(a, b []impl.Node, _ []impl.Record) []string {
+				touched, _ := impl.Touched(a, b)
+				return touched
+			})
+			checkNewDifference(t, a, b, l, "UndoOf", func(a, _ []impl.Node, l []impl.Record) []impl.Record {
+				undo, _ := impl.UndoOf(l, a)
+				return undo
+			})
+			checkNewDifference(t, a, b, l, "Rebase", func(a, _ []impl.Node, l []impl.Record) []impl.Record {
+				again, _ := impl.Rebase(l, a)
+				return again
+			})
+		}
+	}
+}
