@@ -5,6 +5,7 @@ import (
 	"slices"
 	"strings"
 	"testing"
+	"unsafe"
 
 	"loop.example/g00798/impl"
 )
@@ -795,6 +796,105 @@ func TestDifferencesAreNew(t *testing.T) {
 				again, _ := impl.Rebase(l, a)
 				return again
 			})
+		}
+	}
+}
+
+// bytesResults calls every function of chapter 10, and checks that the layer and the unused capacity behind it are left as they were.
+func bytesResults(t *testing.T, r impl.Record, l []impl.Record, text string) string {
+	t.Helper()
+	l = withSpare(l)
+	whole := slices.Clone(l[:cap(l)])
+	result := resultOf(t, "a function of chapter 10", func() []any {
+		record, recordCode := impl.EncodeRecord(r)
+		back, backCode := impl.DecodeRecord(text)
+		sum, sumCode := impl.LayerSum(text)
+		encoded, encodedCode := impl.EncodeLayer(l)
+		at, atCode := impl.FirstFault(text)
+		decoded, decodedCode := impl.DecodeLayer(text)
+		return []any{
+			record, recordCode, back, backCode, sum, sumCode, encoded, encodedCode, at, atCode, slices.Clip(decoded), decodedCode,
+		}
+	})
+	if !slices.Equal(l[:cap(l)], whole) {
+		t.Errorf("a function of chapter 10 changes an argument of %d records", len(l))
+	}
+	return result
+}
+
+func TestEqualTextsYieldEqualResults(t *testing.T) {
+	layers := append(someLayers(30), nil, whites(16), whites(17), largeLayer(), layer(opaque("a", 1), white("a/b")), layer(white("b"), white("a")), layer(impl.Record{}),
+		make([]impl.Record, impl.MaxList), make([]impl.Record, impl.MaxList+1))
+	records := append(fullRecords(), impl.Record{}, white(""), link("a", ""), dir("a", 512), file("a", body21, 0), white(tooLong()[0]))
+	texts := append([]string{"", "LYR", "LYR\xff", "LYS\x00\xf6\xbf", strings.Repeat("\x00", impl.MaxText), "LYR\x01" + strings.Repeat("\x00", impl.MaxText)}, tooLong()[:2]...)
+	for _, r := range fullRecords() {
+		texts = append(texts, textOf(r), textOf(r)+"\x00", rawRecord(0, r.Path, r.Mode, r.Body))
+	}
+	for _, l := range layers[:34] {
+		text := layerText(l)
+		texts = append(texts, text, text+"\x00", text[1:], text[:len(text)-1], text[:len(text)/2])
+	}
+	checkRepeated(t, 3*len(texts), func(i int) string {
+		return bytesResults(t, records[i%len(records)], layers[i%len(layers)], texts[i%len(texts)])
+	})
+}
+
+// overlap reports whether two strings have memory in common, which no string shows by itself.
+func overlap(a, b string) bool {
+	startA, startB := uintptr(unsafe.Pointer(unsafe.StringData(a))), uintptr(unsafe.Pointer(unsafe.StringData(b)))
+	return a != "" && b != "" && startA < startB+uintptr(len(b)) && startB < startA+uintptr(len(a))
+}
+
+// A decoded layer belongs to the caller, and its strings are no parts of the text or of one another.
+func TestDecodedLayersAreNew(t *testing.T) {
+	for _, l := range append(someLayers(60), nil, whites(16), largeLayer()) {
+		text := layerText(l)
+		one, _ := impl.DecodeLayer(text)
+		two, _ := impl.DecodeLayer(text)
+		parts := []string{text}
+		for _, r := range slices.Concat(one, two) {
+			parts = append(parts, r.Path, r.Body)
+		}
+		checkApart(t, parts)
+		clear(one[:cap(one)])
+		_ = append(one, white("x"))
+		if three, _ := impl.DecodeLayer(text); !slices.Equal(two, l) || !slices.Equal(three, l) {
+			t.Errorf("two results of DecodeLayer for %s share memory", show(l))
+		}
+	}
+}
+
+func checkApart(t *testing.T, parts []string) {
+	t.Helper()
+	for i, a := range parts {
+		for _, b := range parts[i+1:] {
+			if overlap(a, b) {
+				t.Errorf("%.100q and %.100q share memory", a, b)
+			}
+		}
+	}
+}
+
+func TestEncodingsAndDecodedRecordsAreNew(t *testing.T) {
+	for _, r := range fullRecords() {
+		one, _ := impl.EncodeRecord(r)
+		two, _ := impl.EncodeRecord(r)
+		back, _ := impl.DecodeRecord(one)
+		again, _ := impl.DecodeRecord(one)
+		if back != r || again != r {
+			t.Fatalf("%s is decoded as %s and %s", show(layer(r)), show(layer(back)), show(layer(again)))
+		}
+		checkApart(t, []string{one, two, r.Path, back.Path, back.Body, again.Path, again.Body})
+		checkApart(t, []string{one, two, r.Body})
+	}
+	for _, l := range someLayers(60) {
+		one, _ := impl.EncodeLayer(l)
+		two, _ := impl.EncodeLayer(l)
+		checkApart(t, []string{one, two})
+		before := slices.Clone(l)
+		clear(l)
+		if one != layerText(before) || two != one {
+			t.Errorf("the encoding of %s changes with its argument", show(before))
 		}
 	}
 }
