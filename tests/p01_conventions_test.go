@@ -898,3 +898,69 @@ func TestEncodingsAndDecodedRecordsAreNew(t *testing.T) {
 		}
 	}
 }
+
+// queryResults calls every function of chapter 11, and checks that the stack and the unused capacity behind it are left as they were.
+func queryResults(t *testing.T, list [][]impl.Record, path string, off, n int) string {
+	t.Helper()
+	list = withSpareStack(list)
+	whole := wholeStack(list)
+	result := resultOf(t, "a function of chapter 11", func() []any {
+		node, nodeCode := impl.LookUp(list, path)
+		names, namesCode := impl.ReadDir(list, path)
+		body, bodyCode := impl.ReadFile(list, path, off, n)
+		target, targetCode := impl.ReadLink(list, path)
+		below, belowCode := impl.Walk(list, path)
+		number, numberCode := impl.LayerOf(list, path)
+		return []any{
+			node, nodeCode, names, namesCode, body, bodyCode, target, targetCode, below, belowCode, number, numberCode,
+		}
+	})
+	if !slices.EqualFunc(wholeStack(list), whole, slices.Equal) {
+		t.Errorf("a function of chapter 11 changes the stack %s", showStack(list))
+	}
+	return result
+}
+
+func TestEqualStacksYieldEqualAnswers(t *testing.T) {
+	long := make([]impl.Record, impl.MaxList+1)
+	stacks := append(append(someStacks(30), wideStacks(30)...), nil, stack(nil), make([][]impl.Record, 5), make([][]impl.Record, 6), make([][]impl.Record, impl.MaxList), make([][]impl.Record, impl.MaxList+1),
+		stack(filesAt("L", 16), filesAt("U", 16)), slices.Repeat(stack(whites(16)), 5), stack(whites(17)), stack(nil, long), stack(layer(white("b"), white("a"))), stack(layer(impl.Record{})))
+	paths := []string{"", "a", "a/b", "a/b/c/d", "a/b/x/y", "b/w", "spare", "spare/x", "zap", "a//b", "/", "a/b/c/d/e", strings.Repeat("a", impl.MaxText), tooLong()[0]}
+	places := edgeNumbers()
+	checkRepeated(t, len(stacks)*len(paths), func(i int) string {
+		return queryResults(t, stacks[i%len(stacks)], paths[i/len(stacks)], places[i%len(places)], places[i/3%len(places)])
+	})
+}
+
+// Lists of names and paths belong to the caller, and nodes and bodies do not change with the stack.
+func TestAnswersAreNew(t *testing.T) {
+	for _, list := range append(append(someStacks(90), wideStacks(30)...), nil, stack(nil), stack(nil, layer(file("a", "x", 1)), nil), slices.Repeat(stack(inDir("d", "L", 15)), 5)) {
+		below, _ := impl.Walk(list, "")
+		for _, path := range append([]string{"", "zap"}, below...) {
+			checkNewList(t, list, "ReadDir", func(list [][]impl.Record) ([]string, int) { return impl.ReadDir(list, path) })
+			checkNewList(t, list, "Walk", func(list [][]impl.Record) ([]string, int) { return impl.Walk(list, path) })
+			checkNewAnswer(t, list, path)
+		}
+	}
+	// One slice is all layers.
+	l := withSpare(layer(dir("a", 1), file("a/b", "x", 2)))
+	checkNewList(t, stack(l, l, l), "ReadDir", func(list [][]impl.Record) ([]string, int) { return impl.ReadDir(list, "a") })
+	checkNewList(t, stack(l, l, l), "Walk", func(list [][]impl.Record) ([]string, int) { return impl.Walk(list, "") })
+}
+
+func checkNewAnswer(t *testing.T, args [][]impl.Record, path string) {
+	t.Helper()
+	view, _ := impl.ViewOf(args)
+	want, _ := seenByRule(view, path)
+	list := copyOfStack(args)
+	n, _ := impl.LookUp(list, path)
+	body, _ := impl.ReadFile(list, path, 0, impl.MaxBody)
+	target, _ := impl.ReadLink(list, path)
+	for _, l := range list {
+		clear(l)
+	}
+	clear(list)
+	if n != want || body+target != want.Body {
+		t.Errorf("the answers at %q in %s change with the stack", path, showStack(args))
+	}
+}
