@@ -964,3 +964,98 @@ func checkNewAnswer(t *testing.T, args [][]impl.Record, path string) {
 		t.Errorf("the answers at %q in %s change with the stack", path, showStack(args))
 	}
 }
+
+// withSpareDisk returns the disk with unused capacity behind each of its lists, in which there are other files and slots.
+func withSpareDisk(d impl.Disk) impl.Disk {
+	files := append(slices.Clone(d.Inodes), impl.Inode{Id: 999999, Text: "spare"}, impl.Inode{}, impl.Inode{Id: 1})
+	now := append(slices.Clone(d.Now), impl.Slot{Name: "zspare", Id: 1}, impl.Slot{}, impl.Slot{Name: "a", Id: 1})
+	safe := append(slices.Clone(d.Safe), impl.Slot{Name: "zspare", Id: 2}, impl.Slot{}, impl.Slot{Name: "b", Id: 1})
+	return impl.Disk{Inodes: files[:len(d.Inodes)], Now: now[:len(d.Now)], Safe: safe[:len(d.Safe)], Next: d.Next}
+}
+
+// wholeDisk copies a disk together with all its unused capacity.
+func wholeDisk(d impl.Disk) impl.Disk {
+	return impl.Disk{Inodes: slices.Clone(d.Inodes[:cap(d.Inodes)]), Now: slices.Clone(d.Now[:cap(d.Now)]), Safe: slices.Clone(d.Safe[:cap(d.Safe)]), Next: d.Next}
+}
+
+// diskResults calls every function of chapter 12, and checks that the disks, the picks and the unused capacity behind them are left as they were.
+func diskResults(t *testing.T, d, other impl.Disk, name, to, text string, picks []int) string {
+	t.Helper()
+	d, other = withSpareDisk(d), withSpareDisk(other)
+	picks = append(slices.Clone(picks), 1, 0, 1)[:len(picks)]
+	whole, wholeOther, wholePicks := wholeDisk(d), wholeDisk(other), slices.Clone(picks[:cap(picks)])
+	result := resultOf(t, "a function of chapter 12", func() []any {
+		written, writeCode := impl.WriteFile(d, name, text)
+		synced, syncCode := impl.SyncFile(d, name)
+		renamed, renameCode := impl.RenameFile(d, name, to)
+		removed, removeCode := impl.RemoveFile(d, name)
+		safe, safeCode := impl.SyncDir(d)
+		read, readCode := impl.DiskRead(d, name)
+		after, crashCode := impl.Crash(d, picks)
+		return []any{
+			impl.DiskOK(d), impl.SameDisk(d, other), written, writeCode, synced, syncCode, renamed, renameCode, removed, removeCode, safe, safeCode, read, readCode, after, crashCode,
+		}
+	})
+	if !equalDisks(wholeDisk(d), whole) || !equalDisks(wholeDisk(other), wholeOther) {
+		t.Errorf("a function of chapter 12 changes %s or %s", showDisk(whole), showDisk(wholeOther))
+	}
+	if !slices.Equal(picks[:cap(picks)], wholePicks) {
+		t.Errorf("Crash changes its %d picks", len(picks))
+	}
+	return result
+}
+
+func TestEqualDisksYieldEqualResults(t *testing.T) {
+	disks := append(append(someDisks(12, 20), notDisks()...), emptyDisk(), wideDisk(24, 24), wideDisk(24, 0), impl.Disk{Next: 1000000})
+	names := []string{"a", "b", "L0", "L30", "MANIFEST", "tmp", "new", "", "a b", "zspare", "abcdefghijklm", tooLong()[0]}
+	texts := []string{"", "x", "\x00\xff", strings.Repeat("t", impl.MaxList), strings.Repeat("t", impl.MaxList+1), tooLong()[2]}
+	picks := [][]int{nil, {1}, {0, 1, 0, 1}, slices.Repeat([]int{1, 2, -3}, 40), slices.Repeat([]int{math.MinInt, math.MaxInt}, 40), make([]int, impl.MaxList), make([]int, impl.MaxList+1)}
+	checkRepeated(t, 4*len(disks), func(i int) string {
+		d, other := disks[i%len(disks)], disks[i*i%len(disks)]
+		return diskResults(t, d, other, names[i%len(names)], names[i/3%len(names)], texts[i%len(texts)], picks[i%len(picks)])
+	})
+}
+
+// checkNewDisk checks that a disk changes neither with the argument nor with another result, nor one list of it with another one, also where the code says that the disk is unchanged.
+func checkNewDisk(t *testing.T, arg impl.Disk, what any, call func(impl.Disk) (impl.Disk, int)) {
+	t.Helper()
+	before := wholeDisk(arg)
+	want, _ := call(impl.Disk{Inodes: slices.Clone(arg.Inodes), Now: slices.Clone(arg.Now), Safe: slices.Clone(arg.Safe), Next: arg.Next})
+	one, _ := call(arg)
+	two, _ := call(arg)
+	clear(one.Now[:cap(one.Now)])
+	if !slices.Equal(one.Safe, want.Safe) {
+		t.Errorf("the lists Now and Safe of a result of %v of %s share memory", what, showDisk(before))
+	}
+	clear(one.Safe[:cap(one.Safe)])
+	clear(one.Inodes[:cap(one.Inodes)])
+	if !equalDisks(wholeDisk(arg), before) || !equalDisks(two, want) {
+		t.Errorf("a result of %v of %s shares memory with its argument or another result", what, showDisk(before))
+	}
+	clear(arg.Inodes[:cap(arg.Inodes)])
+	clear(arg.Now[:cap(arg.Now)])
+	clear(arg.Safe[:cap(arg.Safe)])
+	if !equalDisks(two, want) {
+		t.Errorf("a result of %v of %s changes with its argument", what, showDisk(before))
+	}
+}
+
+// Also where nothing changes, so that a list of the result equals one of the argument, and where one slice is both directories of the argument.
+func TestDisksAreNew(t *testing.T) {
+	for _, d := range append(someDisks(24, 30), emptyDisk(), wideDisk(24, 0), wideDisk(24, 24), impl.Disk{Next: 1000000}, diskOf(1000000, "1A 2B!", "a1 b2", "b2")) {
+		for _, o := range append(opsOver(d, "a", "L0", "new"), writing("", "x"), writing("a", strings.Repeat("t", impl.MaxList+1)), renaming("a", "")) {
+			checkNewDisk(t, withSpareDisk(d), o, o.run)
+		}
+		for _, picks := range [][]int{nil, {1, 0, 1}, slices.Repeat([]int{1}, 99), slices.Repeat([]int{0, 1}, 99), picksToKeep(d, 25)} {
+			checkNewDisk(t, withSpareDisk(d), picks, func(d impl.Disk) (impl.Disk, int) { return impl.Crash(d, picks) })
+		}
+	}
+	for _, o := range []diskOp{syncingDir(), syncing("a"), syncing("c"), writing("a", "x"), writing("c", "x"), renaming("a", "b"), renaming("a", "a"), renaming("a", ""), removing("a"), removing("c")} {
+		d := withSpareDisk(diskOf(9, "1A 2B!", "a1 b2", "a1 b2"))
+		d.Safe = d.Now
+		checkNewDisk(t, d, o, o.run)
+		crashed := withSpareDisk(diskOf(9, "1A 2B!", "a1 b2", "a1 b2"))
+		crashed.Safe = crashed.Now
+		checkNewDisk(t, crashed, "Crash", func(d impl.Disk) (impl.Disk, int) { return impl.Crash(d, []int{1}) })
+	}
+}
